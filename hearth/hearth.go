@@ -35,12 +35,7 @@ func (s *Server) Data(id int, bytes string) int {
 	if !ok {
 		return 0
 	}
-	read := 0
-	for read < len(bytes) && c.reads() {
-		s.read(c, bytes[read])
-		read++
-	}
-	return read + c.putAside(bytes[read:])
+	return s.receive(c, bytes)
 }
 
 // Take takes what waits (P5).
@@ -49,8 +44,8 @@ func (s *Server) Take(id int, most int) string {
 	if !ok || most < 1 {
 		return ""
 	}
-	taken := c.take(most)
-	s.readOn(c)
+	taken := c.out.drop(most)
+	s.receive(c, c.unread.drop(maxWait)) // it may be blocked no more
 	if c.isDone() {
 		s.close(id)
 	}
@@ -83,26 +78,21 @@ func (s *Server) Used() int {
 
 func (s *Server) close(id int) { delete(s.conns, id) }
 
+// receive reads bytes as far as the connection does, and lets the others wait; it answers how many were taken.
+func (s *Server) receive(c *connection, bytes string) int {
+	read := 0
+	for read < len(bytes) && c.reads() {
+		s.read(c, bytes[read])
+		read++
+	}
+	return read + c.putAside(bytes[read:])
+}
+
 // read reads one byte, and answers the request if it is over with it.
 func (s *Server) read(c *connection, b byte) {
 	next, asked := c.doing.read(b)
 	c.doing = next
-	if asked == nil {
-		return
+	if asked != nil {
+		c.put(s.reply(*asked))
 	}
-	a := s.reply(*asked)
-	c.out = append(c.out, a.bytes()...)
-	if a.last {
-		c.doing = leaving{}
-	}
-}
-
-// readOn reads what came while the connection was blocked, as far as it is not blocked again.
-func (s *Server) readOn(c *connection) {
-	read := 0
-	for read < len(c.unread) && c.reads() {
-		s.read(c, c.unread[read])
-		read++
-	}
-	c.forget(read)
 }
