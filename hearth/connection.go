@@ -4,12 +4,19 @@ package hearth
 // While it is not blocked, nothing of unread is left.
 type connection struct {
 	doing
+	id     int
 	unread inbox
 	out    outbox
 }
 
 // reads tells whether the next byte is read now: the connection is not blocked, and has made no last answer.
 func (c *connection) reads() bool { return c.listens() && !c.out.isFull() }
+
+// rests tells whether nothing of a next request has come: none of it was read, and none waits to be read.
+func (c *connection) rests() bool {
+	_, ok := c.doing.(resting)
+	return ok && c.unread.size() == 0
+}
 
 func (c *connection) isDone() bool { return !c.listens() && c.out.size() == 0 }
 

@@ -15,11 +15,17 @@ type doing interface {
 // resting: no byte of a next request was read.
 type resting struct{}
 
-// reading: a request was begun and is not over.
-type reading struct{ *request.Reader }
+// inHead: a request was begun, and its head is not over.
+type inHead struct{ reading }
 
-// leaving: the last answer was made.
+// inBody: a request's head is over, and the request is not.
+type inBody struct{ reading }
+
+// leaving: the last answer was made, or it is as if it was.
 type leaving struct{}
+
+// reading is what inHead and inBody share.
+type reading struct{ *request.Reader }
 
 func (resting) read(b byte) (doing, *request.Request) {
 	return reading{request.NewReader()}.read(b)
@@ -30,11 +36,14 @@ func (resting) held() int { return 0 }
 func (resting) listens() bool { return true }
 
 func (r reading) read(b byte) (doing, *request.Request) {
-	if !r.Read(b) {
-		return r, nil
+	switch {
+	case r.Read(b):
+		asked := r.Request()
+		return resting{}, &asked
+	case r.HeadIsOver():
+		return inBody{r}, nil
 	}
-	asked := r.Request()
-	return resting{}, &asked
+	return inHead{r}, nil
 }
 
 func (r reading) held() int { return r.Count() }

@@ -1,21 +1,25 @@
 // Package hearth is a small server that nobody can tire out: see DOC.md.
 package hearth
 
-import "hearth/store"
+import (
+	"hearth/store"
+	"hearth/wheel"
+)
 
 const maxConns = 4
 
 // Server serves texts. Make it by New.
 type Server struct {
-	conns    map[int]*connection // the open ones
-	made     int
-	draining bool
-	texts    *store.Store
+	conns     map[int]*connection // the open ones
+	made      int
+	draining  bool
+	texts     *store.Store
+	deadlines *wheel.Wheel[deadline]
 }
 
 // New makes a server.
 func New() *Server {
-	return &Server{conns: map[int]*connection{}, texts: store.New()}
+	return &Server{conns: map[int]*connection{}, texts: store.New(), deadlines: wheel.New[deadline]()}
 }
 
 // Connect makes a connection (P2).
@@ -23,10 +27,11 @@ func (s *Server) Connect() (int, bool) {
 	if s.draining || len(s.conns) >= maxConns {
 		return 0, false
 	}
-	id := s.made
+	c := &connection{doing: resting{}, id: s.made}
 	s.made++
-	s.conns[id] = &connection{doing: resting{}}
-	return id, true
+	s.conns[c.id] = c
+	s.settle(c)
+	return c.id, true
 }
 
 // Data: bytes come over a connection; it answers how many were taken (P3).
@@ -45,21 +50,33 @@ func (s *Server) Take(id int, most int) string {
 		return ""
 	}
 	taken := c.out.drop(most)
+	s.deadlines.Clear(deadline{id, write}) // it stands anew from here, if something waits still
+	s.settle(c)
 	s.receive(c, c.unread.drop(maxWait)) // it may be blocked no more
-	if c.isDone() {
-		s.close(id)
-	}
+	s.closeIfDone(c)
 	return taken
 }
 
 // Shut closes a connection (P6).
 func (s *Server) Shut(id int) { s.close(id) }
 
-// Tick: the clock is a tick further (P7). No deadline is kept yet, so nothing hangs on it.
-func (s *Server) Tick() {}
+// Tick: the clock is a tick further, and whoever has met a deadline is sent away (P7).
+func (s *Server) Tick() {
+	for _, met := range s.step() {
+		s.close(met.id)
+	}
+}
 
-// Drain: no more connections, and last answers (P8). Connections that rest stay open as yet.
-func (s *Server) Drain() { s.draining = true }
+// Drain: no more connections, and last answers (P8).
+func (s *Server) Drain() {
+	s.draining = true
+	for _, c := range s.conns {
+		if c.rests() {
+			c.doing = leaving{}
+			s.closeIfDone(c)
+		}
+	}
+}
 
 // Open tells whether a connection is open.
 func (s *Server) Open(id int) bool {
@@ -76,7 +93,16 @@ func (s *Server) Used() int {
 	return used
 }
 
-func (s *Server) close(id int) { delete(s.conns, id) }
+func (s *Server) close(id int) {
+	defer s.forget(id)
+	delete(s.conns, id)
+}
+
+func (s *Server) closeIfDone(c *connection) {
+	if c.isDone() {
+		s.close(c.id)
+	}
+}
 
 // receive reads bytes as far as the connection does, and lets the others wait; it answers how many were taken.
 func (s *Server) receive(c *connection, bytes string) int {
@@ -95,4 +121,5 @@ func (s *Server) read(c *connection, b byte) {
 	if asked != nil {
 		c.put(s.reply(*asked))
 	}
+	s.settle(c)
 }

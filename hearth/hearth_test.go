@@ -48,6 +48,13 @@ func connect(t *testing.T, s *hearth.Server) int {
 	return id
 }
 
+func refused(t *testing.T, s *hearth.Server) {
+	t.Helper()
+	if id, ok := s.Connect(); id != 0 || ok {
+		t.Errorf("Connect() = %d, %v, want 0, false", id, ok)
+	}
+}
+
 func begin(t *testing.T) (*hearth.Server, int) {
 	t.Helper()
 	s := hearth.New()
@@ -203,25 +210,19 @@ func TestP2Numbers(t *testing.T) {
 		}
 		open(t, s, want, true)
 	}
-	refused := func() {
-		t.Helper()
-		if id, ok := s.Connect(); id != 0 || ok {
-			t.Errorf("Connect() = %d, %v, want 0, false", id, ok)
-		}
-	}
-	refused()
+	refused(t, s)
 	s.Shut(2)
 	if id := connect(t, s); id != maxConns {
 		t.Errorf("a number was given again, or passed over: %d", id)
 	}
-	refused()
+	refused(t, s)
 	talk(t, s, 0, "?", empty("400 Bad Request", last))
 	if id := connect(t, s); id != maxConns+1 {
 		t.Errorf("a number was given again, or passed over: %d", id)
 	}
 	s.Shut(1)
 	s.Drain()
-	refused()
+	refused(t, s)
 }
 
 func TestP2ConnectionsAreApart(t *testing.T) {
@@ -529,8 +530,7 @@ func TestP6Shut(t *testing.T) {
 	open(t, s, other, false)
 }
 
-// TestUsed goes with P9, as far as it hangs on no clock.
-func TestUsed(t *testing.T) {
+func TestP9Used(t *testing.T) {
 	s, id := begin(t)
 	used(t, s, 0)
 	in := ask("PUT", "/abc", "Transfer-Encoding: chunked\r\n") + "0002\r\nxy\r\n0\r\n\r\n"

@@ -40,12 +40,18 @@ func knowns() []known {
 type modelConn struct {
 	begun, unread, out string
 	madeLast, isClosed bool
+	at                 times
 }
 
+// times tells at which ticks something was last so.
+type times struct{ made, begun, headOver, over, waited, taken, emptied int }
+
 type model struct {
-	knowns map[string]known
-	conns  []*modelConn
-	texts  map[string]string
+	knowns   map[string]known
+	conns    []*modelConn
+	texts    map[string]string
+	now      int
+	draining bool
 }
 
 func newModel() *model {
@@ -79,10 +85,10 @@ func (m *model) connect() (int, bool) {
 			open++
 		}
 	}
-	if open == maxConns {
+	if open == maxConns || m.draining {
 		return 0, false
 	}
-	m.conns = append(m.conns, &modelConn{})
+	m.conns = append(m.conns, &modelConn{at: times{made: m.now}})
 	return len(m.conns) - 1, true
 }
 
@@ -139,15 +145,29 @@ func (m *model) answer(k known) string {
 // goOn reads as far as it can be read: the bytes that came all go through what waits to be read.
 func (m *model) goOn(c *modelConn) {
 	for c.unread != "" && len(c.out) < 250 {
+		if c.begun == "" {
+			c.at.begun = m.now
+		}
+		if !strings.Contains(c.begun, "\r\n\r\n") {
+			c.at.headOver = m.now // it is, or it is not over yet
+		}
 		c.begun, c.unread = c.begun+c.unread[:1], c.unread[1:]
 		if k, over := m.knowns[c.begun]; over {
-			c.out += m.answer(k)
-			c.begun = ""
-			if k.last {
-				c.madeLast, c.unread = true, ""
-				return
-			}
+			m.end(c, k)
 		}
+	}
+}
+
+// end is what happens when a request is over.
+func (m *model) end(c *modelConn, k known) {
+	k.last = k.last || m.draining
+	if c.out == "" {
+		c.at.waited = m.now
+	}
+	c.out += m.answer(k)
+	c.begun, c.at.over = "", m.now
+	if k.last {
+		c.madeLast, c.unread = true, ""
 	}
 }
 
@@ -168,6 +188,12 @@ func (m *model) take(id, most int) string {
 	n := max(0, min(most, len(c.out)))
 	taken := c.out[:n]
 	c.out = c.out[n:]
+	if n > 0 {
+		c.at.taken = m.now
+	}
+	if n > 0 && c.out == "" {
+		c.at.emptied = m.now
+	}
 	m.goOn(c)
 	if c.madeLast && c.out == "" {
 		m.shut(id)
@@ -176,6 +202,44 @@ func (m *model) take(id, most int) string {
 }
 
 func (m *model) shut(id int) { *m.conns[id] = modelConn{isClosed: true} }
+
+// late tells which deadline a connection has met, and "" if it has met none.
+func (m *model) late(c *modelConn) string {
+	switch headOver := strings.Contains(c.begun, "\r\n\r\n"); {
+	case c.isClosed:
+		return ""
+	case c.out != "" && m.now == max(c.at.waited, c.at.taken)+12:
+		return "Write"
+	case c.madeLast:
+		return ""
+	case c.begun != "" && !headOver && m.now == c.at.begun+10:
+		return "Head"
+	case c.begun != "" && headOver && m.now == c.at.headOver+20:
+		return "Body"
+	case c.begun == "" && c.out == "" && m.now == max(c.at.made, c.at.over, c.at.emptied)+8:
+		return "Idle"
+	}
+	return ""
+}
+
+func (m *model) tick() {
+	m.now++
+	for id, c := range m.conns {
+		if m.late(c) != "" {
+			m.shut(id)
+		}
+	}
+}
+
+func (m *model) drain() {
+	m.draining = true
+	for id, c := range m.conns {
+		if c.begun == "" && c.unread == "" {
+			c.madeLast = true
+			m.take(id, 0)
+		}
+	}
+}
 
 // draw draws a connection, most often an open one.
 func (m *model) draw(r *rand.Rand) int {
@@ -186,8 +250,8 @@ func (m *model) draw(r *rand.Rand) int {
 	return id
 }
 
-// walkBoth makes the same calls on a server and on the model, as r draws them.
-func walkBoth(t *testing.T, r *rand.Rand, steps int) {
+// walkBoth makes the same calls on a server and on the model, as r draws them; the more ticks, the slower everybody is.
+func walkBoth(t *testing.T, r *rand.Rand, steps, ticks int) {
 	t.Helper()
 	s, m, all := hearth.New(), newModel(), knowns()
 	var coming []string // over each connection
@@ -198,28 +262,54 @@ func walkBoth(t *testing.T, r *rand.Rand, steps int) {
 		}
 		coming = append(coming, make([]string, len(m.conns)-len(coming))...)
 		id = m.draw(r)
-		switch r.Intn(30) {
+		switch r.Intn(30 + ticks) {
 		case 0:
 			s.Shut(id)
 			m.shut(id)
+		case 10:
+			if ticks > 0 && r.Intn(10) == 0 {
+				s.Drain()
+				m.drain()
+			}
 		case 1, 2, 3, 4, 5, 6, 7, 8, 9:
 			most := r.Intn(280) - 5
 			if got, want := s.Take(id, most), m.take(id, most); got != want {
 				t.Fatalf("Take(%d, %d) = %q, want %q", id, most, got, want)
 			}
-		default:
-			for range r.Intn(12) {
+		case 11, 12, 13, 14, 15, 16, 17, 18, 19, 20, 21, 22, 23, 24, 25, 26, 27, 28, 29:
+			for range r.Intn(2 + 10*r.Intn(2)) {
 				coming[id] += all[r.Intn(len(all)-r.Intn(2)*3)].bytes
 			}
-			piece := coming[id][:r.Intn(len(coming[id])+1)]
+			piece := coming[id]
+			if r.Intn(4) > 0 { // else it ends with a request
+				piece = piece[:r.Intn(len(piece)+1)]
+			}
 			got, want := s.Data(id, piece), m.data(id, piece)
 			if got != want {
 				t.Fatalf("Data(%d, %q) = %d, want %d", id, piece, got, want)
 			}
 			coming[id] = coming[id][got:]
+		default:
+			s.Tick()
+			m.tick()
 		}
 		holdOpen(t, s, m)
 	}
+	rest(t, s, m)
+}
+
+// rest lets the clock go while nobody does anything, until P9 wants all connections closed.
+func rest(t *testing.T, s *hearth.Server, m *model) {
+	t.Helper()
+	for range 12 + 20 {
+		s.Tick()
+		m.tick()
+		holdOpen(t, s, m)
+	}
+	for id := range m.conns {
+		open(t, s, id, false)
+	}
+	used(t, s, m.stored())
 }
 
 func holdOpen(t *testing.T, s *hearth.Server, m *model) {
@@ -231,11 +321,15 @@ func holdOpen(t *testing.T, s *hearth.Server, m *model) {
 		if s.Open(id) == c.isClosed {
 			t.Fatalf("Open(%d) = %v", id, c.isClosed)
 		}
+		if s.HasDeadline(id) == c.isClosed {
+			t.Fatalf("connection %d: a deadline stands: %v", id, c.isClosed)
+		}
 	}
 }
 
 func TestModel(t *testing.T) {
 	for seed := range int64(300) {
-		t.Run(strconv.FormatInt(seed, 10), func(t *testing.T) { walkBoth(t, rand.New(rand.NewSource(seed)), 300) })
+		ticks := []int{0, 3, 10, 30, 90}[seed%5]
+		t.Run(strconv.FormatInt(seed, 10), func(t *testing.T) { walkBoth(t, rand.New(rand.NewSource(seed)), 300, ticks) })
 	}
 }

@@ -67,6 +67,9 @@ func (r *Reader) Read(b byte) bool {
 // Count tells how many bytes were read.
 func (r *Reader) Count() int { return r.count }
 
+// HeadIsOver tells whether the head was read to its end.
+func (r *Reader) HeadIsOver() bool { return r.headOver }
+
 // Request tells what the request asks, once it is over.
 func (r *Reader) Request() Request {
 	return Request{

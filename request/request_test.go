@@ -245,3 +245,15 @@ func TestBehindTheEnd(t *testing.T) {
 		t.Errorf("a byte was read behind the end: %d, %+v", r.Count(), r.Request())
 	}
 }
+
+func TestHeadIsOver(t *testing.T) {
+	for _, s := range []string{head + "2\r\n\r\n\r\n0\r\n\r\n", "PUT / HTTP/1.1\r\nA: b\r\nContent-Length: 4\r\n\r\n\r\n\r\n", "GET / HTTP/1.1\r\n\r\n"} {
+		r := NewReader()
+		for i := range len(s) {
+			r.Read(s[i])
+			if want := strings.Contains(s[:i+1], "\r\n\r\n"); r.HeadIsOver() != want {
+				t.Errorf("%q: HeadIsOver() = %v", s[:i+1], !want)
+			}
+		}
+	}
+}
